@@ -1,6 +1,7 @@
 package schema
 
 import (
+	"fmt"
 	"math/rand"
 	"slices"
 	"testing"
@@ -314,6 +315,71 @@ func TestMemoryOfEnums(t *testing.T) {
 	}
 }
 
+// tellers are the calls that answer a type, each asked for the type X of a schema.
+func tellers(s api.Schema) map[string]func() (api.Type, api.Errno) {
+	box := api.Type{Name: "Box", Kind: api.TypeStruct, Fields: fields("x", "X")}
+	s = api.Schema{Types: append([]api.Type{box}, s.Types...), Roots: []api.Root{{Kind: "box", Type: "Box"}, {Kind: "x", Type: "X"}}}
+	return map[string]func() (api.Type, api.Errno){
+		"Means": func() (api.Type, api.Errno) { return Means(s, "X") },
+		"Root":  func() (api.Type, api.Errno) { return Root(s, "x") },
+		"Below": func() (api.Type, api.Errno) { return Below(s, box, field("x")) },
+		"At":    func() (api.Type, api.Errno) { return At(s, "box", api.Path{field("x")}) },
+	}
+}
+
+// numbers is a list of so many.
+func numbers(n int) api.Value {
+	v := list(make([]api.Value, n)...)
+	for i := range v.List {
+		v.List[i] = num(i)
+	}
+	return v
+}
+
+// Whatever an enum holds is told whole: in one list, in many, in maps, in one that stands there over and over.
+func TestEnumsOfVeryManyValues(t *testing.T) {
+	many, members, lists := 1<<20+1, object(), list()
+	for i := range 1 << 10 {
+		lists.List = append(lists.List, numbers(1<<9))
+		members.Map = append(members.Map, at(fmt.Sprintf("%04d", i), numbers(1<<9+1)))
+	}
+	again := list(slices.Repeat([]api.Value{numbers(1 << 7)}, 1<<13)...)
+	great := numbers(1 << 18)
+	small := slices.Repeat([]api.Value{numbers(3), object(at("a", null), at("b", null))}, 1<<12)
+	for what, enum := range map[string][]api.Value{
+		"one list":                      {numbers(many)},
+		"many values":                   numbers(many).List,
+		"many lists, many maps":         {lists, members, num(7)},
+		"one list many times":           {again, null, object(at("a", again.List[0]))},
+		"few of much, then many of few": append([]api.Value{list(great, great, great), object(at("a", great), at("b", great))}, small...),
+	} {
+		x := api.Type{Name: "X", Kind: api.TypeStr, Enum: enum}
+		for call, does := range tellers(types(x)) {
+			if got, e := does(); e != api.OK || !same(got, x) {
+				t.Errorf("P7.3, P7.5: %s of a type with %s in its enum: %d, %d values, or not the same", call, what, e, len(got.Enum))
+			}
+		}
+	}
+	got, _ := Means(types(api.Type{Name: "X", Kind: api.TypeStr, Enum: []api.Value{again}}), "X")
+	checkApart(t, "Means", append(rooms(got), rooms(again.List[0])...))
+}
+
+// Values as deep in one another as the page's bound lets them be: 2^16 of them.
+func TestEnumsOfDeepValues(t *testing.T) {
+	for _, n := range []int{1, 41, 1 << 10, 1<<16 - 1} {
+		deep, high := num(7), text("u")
+		for range n {
+			deep, high = list(deep), object(at("a", high))
+		}
+		x := api.Type{Name: "X", Kind: api.TypeInt, Enum: []api.Value{deep, high}}
+		for call, does := range tellers(types(x)) {
+			if got, e := does(); e != api.OK || !same(got, x) {
+				t.Errorf("P7.3, P7.5: %s of a type with values %d deep in its enum: %d, or not the same", call, n, e)
+			}
+		}
+	}
+}
+
 // A value that lies within itself, or holds itself over and over, is gone through to some end.
 func TestEnumsWithoutEnd(t *testing.T) {
 	loop := list(num(5), null, null)
@@ -330,6 +396,11 @@ func TestEnumsWithoutEnd(t *testing.T) {
 		got, e := Means(s, "X")
 		if e != api.OK || len(got.Enum) != 2 || !same(got.Enum[1], num(5)) || got.Enum[0].Kind != v.Kind {
 			t.Errorf("P7.3: Means of an enum without end (%d): %d, %d values", i, e, len(got.Enum))
+		}
+		for call, does := range tellers(s) {
+			if again, e := does(); e != api.OK || !same(again, got) {
+				t.Errorf("P7.3, P7.5: %s of an enum without end (%d): %d, or not what Means answers", call, i, e)
+			}
 		}
 		if e := Check(s); e != api.ErrSchemaEnum {
 			t.Errorf("P7.1: Check of an enum without end (%d): %d", i, e)
