@@ -1,4 +1,5 @@
-package path
+// Package checked works on paths of which somebody has asked already whether they may be (path.Check): what goes over many paths asks that once for each, not at each step. Of what are no paths it says nothing, but that its calls end.
+package checked
 
 import (
 	"cmp"
@@ -7,18 +8,11 @@ import (
 	"freehold/api"
 )
 
-// Compare orders paths.
-func Compare(p, q api.Path) int {
-	if Check(p) != api.OK || Check(q) != api.OK {
-		return 0
-	}
-	return orderPaths(p, q)
-}
+// Order tells which of two paths stands first: -1, 0 or 1.
+func Order(p, q api.Path) int { return order(p, q, OrderElems) }
 
 // Above tells whether a path is at or above another one.
-func Above(p, q api.Path) bool {
-	return Check(p) == api.OK && Check(q) == api.OK && len(p) <= len(q) && samePaths(p, q[:len(p)])
-}
+func Above(p, q api.Path) bool { return len(p) <= len(q) && Order(p, q[:len(p)]) == 0 }
 
 // order tells which of two lists stands first: the first unlike elements say so, and where there are none the shorter one does. Paths are ordered by it, and within them keys.
 func order[T any](a, b []T, by func(x, y T) int) int {
@@ -30,12 +24,8 @@ func order[T any](a, b []T, by func(x, y T) int) int {
 	return cmp.Compare(len(a), len(b))
 }
 
-func orderPaths(p, q api.Path) int { return order(p, q, orderElems) }
-
-func samePaths(p, q api.Path) bool { return orderPaths(p, q) == 0 }
-
-// orderElems goes by the kinds first, which are numbered as they are ordered.
-func orderElems(a, b api.Elem) int {
+// OrderElems tells which of two elements stands first. It goes by the kinds, which are numbered as they are ordered, then by what the kind uses.
+func OrderElems(a, b api.Elem) int {
 	if a.Kind != b.Kind {
 		return cmp.Compare(a.Kind, b.Kind)
 	}
@@ -55,7 +45,7 @@ func orderMembers(a, b api.Member) int {
 	return orderScalars(a.Val, b.Val)
 }
 
-// orderScalars is value.Compare's order without its look at each value: a path was looked at as a whole.
+// orderScalars is value.Compare's order without its look at each value.
 func orderScalars(a, b api.Value) int {
 	switch {
 	case a.Kind != b.Kind:
