@@ -59,3 +59,34 @@ func TestCopy(t *testing.T) {
 		}
 	}
 }
+
+// The parts of rising paths, one behind the other, as far as they are asked for.
+func TestParts(t *testing.T) {
+	type thing struct {
+		way api.Path
+		n   int
+	}
+	var l []thing
+	for i, s := range []string{".x", ".a.a", ".a.b", ".a.b.c", ".a[id=1].x", ".a[id=1].y", ".a[id=2]", ".a[=1]", ".a[=1][=2]"} {
+		l = append(l, thing{parsed(t, s), i})
+	}
+	way := func(x thing) api.Path { return x.way }
+	for _, c := range []struct {
+		from, depth, most int
+		ends              []int
+	}{{1, 1, 9, []int{2, 4, 6, 7, 9}}, {1, 0, 9, []int{9}}, {1, 1, 1, []int{2}}, {1, 1, 3, []int{2, 4, 6}}, {9, 1, 9, nil}} {
+		from, k := c.from, 0
+		for part := range checked.Parts(l[c.from:], c.depth, way) {
+			if k >= len(c.ends) || len(part) != c.ends[k]-from || part[0].n != from {
+				t.Fatalf("the part %d of %+v: %+v", k, c, part)
+			}
+			from, k = c.ends[k], k+1
+			if k == c.most {
+				break
+			}
+		}
+		if k != len(c.ends) {
+			t.Errorf("%d parts of %+v", k, c)
+		}
+	}
+}

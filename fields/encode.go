@@ -1,7 +1,6 @@
 package fields
 
 import (
-	"iter"
 	"slices"
 	"strings"
 
@@ -32,25 +31,9 @@ func valueAt(l []api.Path, depth int, name naming) api.Value {
 			m = append(m, api.Member{Key: self, Val: api.Value{Kind: api.Map}})
 		}
 	}
-	for part := range parts(l, depth) {
+	for part := range checked.Parts(l, depth, func(p api.Path) api.Path { return p }) {
 		m = append(m, name.member(part, depth))
 	}
 	slices.SortFunc(m, func(a, b api.Member) int { return strings.Compare(a.Key, b.Key) }) // texts are ordered otherwise than elements
 	return api.Value{Kind: api.Map, Map: m}
-}
-
-// parts cuts a set whose paths lie below one path of so many elements into the parts that have the next element in common, one behind the other.
-func parts(l []api.Path, depth int) iter.Seq[[]api.Path] {
-	return func(yield func([]api.Path) bool) {
-		for from := 0; from < len(l); {
-			to := from + 1
-			for to < len(l) && checked.OrderElems(l[from][depth], l[to][depth]) == 0 {
-				to++
-			}
-			if !yield(l[from:to]) {
-				return
-			}
-			from = to
-		}
-	}
 }
